@@ -472,7 +472,7 @@ func TestReadSmall(t *testing.T) {
 	holdMet(t, met, 20, api.ErrMore, api.ErrShort, api.ErrSize, api.ErrForm, api.ErrCount, api.ErrOrder)
 }
 
-// 14.2, 14.4: all rows of up to six pieces, numbers, names, digests and kids, against the words.
+// 14.2, 14.4: all rows of up to five pieces (numbers, names, digests, kids, a leaf), and of those behind a leaf of none, against the words.
 func TestReadRows(t *testing.T) {
 	pieces := []string{"\x00", "\x01", "\x02", noughts, aName, aName + rise, "\x01b" + noughts, "\x01B" + noughts, xBytes}
 	rows, row := []string{""}, []string{""}
